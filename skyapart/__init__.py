@@ -1,0 +1,1 @@
+"""Skyapart: an air traffic control centre that keeps aircraft apart."""

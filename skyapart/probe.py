@@ -1,0 +1,51 @@
+"""The first conflict of two tracks, found without a look at each tick."""
+from skyapart.plane import lines_distance_down
+from skyapart.separation import box_at, common_ticks, levels_apart, wide
+
+
+def probe(rules, one, other):
+    """Return the first tick at which two tracks have boxes that are not separated, or None."""
+    tick, end = common_ticks(one, other)
+    while tick < end:
+        spare = _spare(rules, one, other, tick)
+        if spare is None:
+            tick += 1
+        elif spare < 0:
+            return tick
+        else:
+            tick = _behind_safe_ticks(one, other, tick, end, spare)
+    return None
+
+
+def _spare(rules, one, other, tick):
+    """Return by how much the distance is greater than it must be, or None if it does not matter."""
+    if levels_apart(rules, box_at(one, tick), box_at(other, tick)):
+        return None
+    piece = _piece(one, tick)
+    other_piece = _piece(other, tick)
+    if not piece or not other_piece:
+        return None
+    return lines_distance_down(piece, other_piece) - wide(rules)
+
+
+def _piece(track, tick):
+    low, high, _, _ = box_at(track, tick)
+    return track[0].piece(low, high)
+
+
+def _behind_safe_ticks(one, other, tick, end, spare):
+    """Return the next tick at which the distance of the pieces may have shrunk by more than the spare.
+
+    A leg is at least as long as the way between its ends, and the low of a box does not decrease:
+    so each later piece stays as near to the piece of this tick as its front has got ahead of it.
+    """
+    front = _front(one, tick) + _front(other, tick)
+    later = tick + 1
+    while later < end and _front(one, later) + _front(other, later) - front <= spare:
+        later += 1
+    return later
+
+
+def _front(track, tick):
+    """Return the progress up to which the piece of a track reaches, which is never beyond the total."""
+    return min(box_at(track, tick)[1], track[0].total())

@@ -1,0 +1,61 @@
+"""The names and arguments that DOC.md lists exist, each defined in the file under which it is listed."""
+import importlib
+import inspect
+import unittest
+
+FUNCTIONS = {
+    "whole": {"root_down": "n", "root_up": "n"},
+    "plane": {"closer": "first second limit", "lines_closer": "first second limit", "distance_down": "first second"},
+    "zone": {"is_zone": "points", "touches": "zone segment"},
+    "chart": {"check_chart": "chart", "leg_length": "chart start end", "leg_between": "chart start end"},
+    "routes": {
+        "check_route": "chart route", "route_length": "chart route", "shortest": "chart start goal level",
+        "confirmed": "chart level route distances", "alternatives": "chart start goal level count",
+        "with_loops": "chart route loops",
+    },
+    "craft": {"is_kind": "kind", "check_rules": "rules"},
+    "wind": {"wind_at": "winds tick", "step_bounds": "vector speed slip wind"},
+    "courses": {
+        "next_box": "path course kind rules winds tick box", "target": "path course index",
+        "tube": "chart path course kind rules winds tick box", "window": "path tick boxes",
+        "changed": "course change",
+    },
+    "separation": {"separated": "rules path box other_path other_box", "first_conflict": "rules one other"},
+    "probe": {"probe": "rules one other"},
+}
+CLASSES = {
+    "path": {
+        "Path": {
+            "__init__": "self chart route", "total": "self", "leg_at": "self progress", "begin": "self index",
+            "leg": "self index", "vector": "self index", "place": "self progress", "piece": "self low high",
+            "route": "self",
+        },
+    },
+}
+
+
+class InterfaceTest(unittest.TestCase):
+    def names(self, function):
+        return " ".join(inspect.signature(function).parameters)
+
+    def test_functions(self):
+        for module, functions in FUNCTIONS.items():
+            found = importlib.import_module(f"skyapart.{module}")
+            for name, parameters in functions.items():
+                function = getattr(found, name)
+                self.assertEqual(self.names(function), parameters, name)
+                self.assertEqual(function.__module__, f"skyapart.{module}")
+
+    def test_classes(self):
+        for module, classes in CLASSES.items():
+            found = importlib.import_module(f"skyapart.{module}")
+            for name, methods in classes.items():
+                made = getattr(found, name)
+                self.assertEqual(made.__module__, f"skyapart.{module}")
+                for method, parameters in methods.items():
+                    self.assertIn(method, vars(made))
+                    self.assertEqual(self.names(vars(made)[method]), parameters, method)
+
+
+if __name__ == "__main__":
+    unittest.main()
