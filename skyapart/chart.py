@@ -108,13 +108,12 @@ def _check_runways(chart):
 def _check_holds(chart):
     holds = chart["holds"]
     for index, name in enumerate(sorted(holds)):
-        if not _hold_fits(chart, name, holds[name]):
+        if not _joined_both_ways(chart, name, holds[name]):
             raise ChartError("hold", index)
 
 
-def _hold_fits(chart, name, other):
-    if name not in chart["fixes"] or other not in chart["fixes"]:
-        return False
+def _joined_both_ways(chart, name, other):
+    """Tell whether legs lead from each to the other; both are fixes then, as ends of checked legs are."""
     return leg_between(chart, name, other) is not None and leg_between(chart, other, name) is not None
 
 

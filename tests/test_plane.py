@@ -63,6 +63,7 @@ class PlaneTest(unittest.TestCase):
     def test_crossing(self):
         self.check((0, 0, 10, 10, 1), (0, 10, 10, 0, 1), 0)
         self.check((0, 0, 3, 3, 1), (0, 3, 3, 1, 7), 0)
+        self.check((0, 0, 1, 1, 1), (0, 1, 1, 0, 1), 0)
         self.check((-5, 0, 5, 0, 1), (0, -5, 0, 5, 1), 0)
         self.check((-5, 0, 5, 0, 3), (1, -5, 1, 5, 2), 0)
 
@@ -127,6 +128,7 @@ class PlaneTest(unittest.TestCase):
         self.assertIs(closer(first, second, 3), False)
         self.assertIs(closer((0, 0, 1, 1, 1), (0, 1, 1, 0, 1), 0), False)
         self.assertIs(closer((0, 0, 1, 1, 1), (0, 1, 1, 0, 1), 1), True)
+        self.assertIs(closer(first, second, -5), False)
 
     def test_large(self):
         far = 10 ** 20

@@ -224,6 +224,7 @@ class AlternativesTest(unittest.TestCase):
         self.assertEqual(alternatives(chart, "A", "C", 60, 9), [("A", "B", "D", "C")])
         self.assertEqual(alternatives(chart, "A", "C", 40, 9), [])
         self.assertEqual(alternatives(chart, "A", "E5", 150, 9), [])
+        self.assertEqual(alternatives(chart, "A", "A", 150, 9), [])
 
     def test_equal_lengths(self):
         fixes = {"A": (0, 0), "B": (10, 0), "C": (20, 0), "D": (30, 0)}

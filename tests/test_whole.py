@@ -36,6 +36,11 @@ class WholeTest(unittest.TestCase):
         self.check(10 ** 60)
         self.check(10 ** 60 - 1)
 
+    def test_below_and_beyond_the_limits(self):
+        self.check(10 ** 70 + 1)
+        self.assertEqual(root_up(-1), 0)
+        self.assertEqual(root_down(-1), 0)
+
     def test_example(self):
         self.assertEqual(root_up(10), 4)
 
