@@ -1,6 +1,6 @@
 """The first conflict of two tracks, found without a look at each tick."""
 from skyapart.plane import lines_distance_down
-from skyapart.separation import box_at, common_ticks, levels_apart, wide
+from skyapart.separation import box_at, common_ticks, least_distance, levels_apart
 
 
 def probe(rules, one, other):
@@ -25,7 +25,7 @@ def _spare(rules, one, other, tick):
     other_piece = _piece(other, tick)
     if not piece or not other_piece:
         return None
-    return lines_distance_down(piece, other_piece) - wide(rules)
+    return lines_distance_down(piece, other_piece) - least_distance(rules)
 
 
 def _piece(track, tick):

@@ -8,7 +8,7 @@ def separated(rules, path, box, other_path, other_box):
         return True
     piece = path.piece(box[0], box[1])
     other_piece = other_path.piece(other_box[0], other_box[1])
-    return not lines_closer(piece, other_piece, wide(rules))
+    return not lines_closer(piece, other_piece, least_distance(rules))
 
 
 def first_conflict(rules, one, other):
@@ -28,7 +28,7 @@ def levels_apart(rules, box, other_box):
     return box[2] - other_box[3] >= high or other_box[2] - box[3] >= high
 
 
-def wide(rules):
+def least_distance(rules):
     """Return the distance from which on the pieces of two boxes are apart."""
     return rules["lateral"] + 2 * rules["radius"]
 
