@@ -22,6 +22,18 @@ FUNCTIONS = {
     },
     "separation": {"separated": "rules path box other_path other_box", "first_conflict": "rules one other"},
     "probe": {"probe": "rules one other"},
+    "landing": {
+        "apart": "gaps first second", "landing_ticks": "gaps arrivals order", "best_order": "gaps arrivals shift",
+    },
+    "radar": {"fitted": "rules path box plot"},
+    "tracker": {"assign": "rules flights plots"},
+    "requests": {
+        "check_requests": "chart requests", "request_text": "request", "read_request": "text",
+        "menu": "chart request",
+    },
+    "occupancy": {"occupies": "offer sector tick"},
+    "joint": {"clash": "rules one other", "choose": "rules capacities held menus"},
+    "judge": {"takes": "rules capacities held menus refutation"},
 }
 CLASSES = {
     "path": {

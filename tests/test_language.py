@@ -10,6 +10,7 @@ PACKAGE = pathlib.Path(__file__).resolve().parent.parent / "skyapart"
 LIBRARY = {
     "heapq": {"heappush", "heappop", "heapify", "heapreplace", "heappushpop"},
     "math": {"gcd", "lcm", "isqrt", "comb", "perm", "factorial"},
+    "itertools": {"product", "combinations", "permutations"},
 }
 BUILTINS = set(
     "len range enumerate zip min max sum abs sorted reversed int str bool bytes list tuple dict set frozenset "
@@ -21,13 +22,14 @@ METHODS = set(
     "items join keys ljust lower lstrip partition pop remove replace reverse rfind rjust rpartition rsplit rstrip "
     "setdefault split splitlines startswith strip update upper values zfill bit_length".split()
 )
+ATTRIBUTES = set("count index title find get join lower upper split strip copy add".split())
 BARRED_WORDS = set(
     "register mro elements open input law version_info with_traceback add_note global typing enum Enum namedtuple "
     "dataclass overload contextmanager abstractmethod type async await lambda".split()
 )
 STATEMENTS = (
     ast.Assign, ast.AugAssign, ast.If, ast.While, ast.For, ast.Return, ast.Break, ast.Continue, ast.Pass, ast.Raise,
-    ast.Assert, ast.Delete, ast.Expr, ast.Try, ast.FunctionDef, ast.ClassDef, ast.ImportFrom,
+    ast.Assert, ast.Delete, ast.Expr, ast.Try, ast.FunctionDef, ast.ClassDef, ast.ImportFrom, ast.Match,
 )
 
 
@@ -167,6 +169,20 @@ class LanguageTest(unittest.TestCase):
                     self.assertNotIn(node.arg, taken, (name, node.lineno))
                 if isinstance(node, ast.Name) and isinstance(node.ctx, ast.Store):
                     self.assertNotIn(node.id, taken, (name, node.lineno))
+
+    def test_names_of_attributes(self):
+        for name, tree in trees():
+            for node in ast.walk(tree):
+                if isinstance(node, ast.Attribute) and isinstance(node.ctx, ast.Store):
+                    self.assertNotIn(node.attr, METHODS - ATTRIBUTES, (name, node.lineno))
+
+    def test_no_name_is_a_method_and_an_attribute(self):
+        classes = [node for _, tree in trees() for node in tree.body if isinstance(node, ast.ClassDef)]
+        methods = {node.name for each in classes for node in each.body if isinstance(node, ast.FunctionDef)}
+        for name, tree in trees():
+            for node in ast.walk(tree):
+                if isinstance(node, ast.Attribute) and isinstance(node.ctx, ast.Store):
+                    self.assertNotIn(node.attr, methods, (name, node.lineno))
 
     def test_barred_words(self):
         for name, tree in trees():

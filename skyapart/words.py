@@ -1,0 +1,51 @@
+"""Texts of words with one blank between each two, read from the left."""
+from skyapart.chart import DIGITS, is_name
+from skyapart.errors import TextError
+
+MOST_DIGITS = 9
+
+
+def is_number(word):
+    """Tell whether a word is a number: decimal digits without leading zeros."""
+    if not 1 <= len(word) <= MOST_DIGITS or (word[0] == "0" and word != "0"):
+        return False
+    return all(letter in DIGITS for letter in word)
+
+
+class Words:
+    """The words of a text. Where one is wrong, missing or too many, TextError has its index."""
+
+    def __init__(self, text):
+        self._words = text.split(" ")
+        self._at = 0
+
+    def more(self):
+        """Tell whether there are words that have not been read."""
+        return self._at < len(self._words)
+
+    def read_word(self, choices):
+        """Read a word that must be one of the choices."""
+        if not self.more() or self._words[self._at] not in choices:
+            raise TextError(self._at)
+        return self._read()
+
+    def read_name(self):
+        """Read a name."""
+        if not self.more() or not is_name(self._words[self._at]):
+            raise TextError(self._at)
+        return self._read()
+
+    def read_number(self):
+        """Read a number."""
+        if not self.more() or not is_number(self._words[self._at]):
+            raise TextError(self._at)
+        return int(self._read())
+
+    def end(self):
+        """Check that there are no more words."""
+        if self.more():
+            raise TextError(self._at)
+
+    def _read(self):
+        self._at += 1
+        return self._words[self._at - 1]
