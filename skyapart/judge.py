@@ -1,6 +1,6 @@
 """The judge: whether a refutation proves that there is no free choice."""
 from skyapart.joint import wake_tick
-from skyapart.occupancy import occupies
+from skyapart.occupancy import flights_in, occupies
 from skyapart.separation import box_at, common_ticks, separated
 
 
@@ -93,8 +93,4 @@ def _many(held, entries, sector, tick):
     """Return how many flights and entries occupy a sector at a tick; 0 if an entry is no offer."""
     if any(isinstance(entry, str) for entry in entries):
         return 0
-    many = sum(1 for entry in entries if occupies(entry, sector, tick))
-    for _, offers in held:
-        if any(occupies(offer, sector, tick) for offer in offers):
-            many += 1
-    return many
+    return flights_in(held, sector, tick) + sum(1 for entry in entries if occupies(entry, sector, tick))

@@ -9,6 +9,15 @@ def occupies(offer, sector, tick):
     return sector in _sectors(path, boxes[tick - begin])
 
 
+def flights_in(held, sector, tick):
+    """Return how many flights have an offer that occupies a sector at a tick."""
+    many = 0
+    for _, offers in held:
+        if any(occupies(offer, sector, tick) for offer in offers):
+            many += 1
+    return many
+
+
 def occupied(offer, sectors):
     """Return, for those of the sectors that an offer occupies, the ticks at which it does.
 

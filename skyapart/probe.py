@@ -36,16 +36,18 @@ def _piece(track, tick):
 def _behind_safe_ticks(one, other, tick, end, spare):
     """Return the next tick at which the distance of the pieces may have shrunk by more than the spare.
 
-    A leg is at least as long as the way between its ends, and the low of a box does not decrease:
-    so each later piece stays as near to the piece of this tick as its front has got ahead of it.
+    A leg is at least as long as the way between its ends: so each place of a later piece is as near to
+    the piece of this tick as the later one has got beyond it along the path.
     """
-    front = _front(one, tick) + _front(other, tick)
     later = tick + 1
-    while later < end and _front(one, later) + _front(other, later) - front <= spare:
+    while later < end and _beyond(one, tick, later) + _beyond(other, tick, later) <= spare:
         later += 1
     return later
 
 
-def _front(track, tick):
-    """Return the progress up to which the piece of a track reaches, which is never beyond the total."""
-    return min(box_at(track, tick)[1], track[0].total())
+def _beyond(track, tick, later):
+    """Return by how much the piece of a track at a later tick reaches beyond that of a tick."""
+    total = track[0].total()
+    low, high, _, _ = box_at(track, tick)
+    later_low, later_high, _, _ = box_at(track, later)
+    return max(min(later_high, total) - min(high, total), max(low, 0) - max(later_low, 0), 0)

@@ -34,6 +34,9 @@ FUNCTIONS = {
     "occupancy": {"occupies": "offer sector tick"},
     "joint": {"clash": "rules one other", "choose": "rules capacities held menus"},
     "judge": {"takes": "rules capacities held menus refutation"},
+    "phrase": {"clearance_text": "clearance", "read_clearance": "text"},
+    "foreign": {"reach": "rules sighting tick", "near_reach": "rules path box sighting tick"},
+    "strips": {"strip": "track"},
 }
 CLASSES = {
     "path": {
@@ -41,6 +44,28 @@ CLASSES = {
             "__init__": "self chart route", "total": "self", "leg_at": "self progress", "begin": "self index",
             "leg": "self index", "vector": "self index", "place": "self progress", "piece": "self low high",
             "route": "self",
+        },
+    },
+    "pilot": {
+        "Pilot": {
+            "__init__": "self flight course", "course": "self", "hear": "self message tick", "begin_tick": "self tick",
+        },
+    },
+    "handover": {
+        "Responsibility": {
+            "__init__": "self sectors first", "give": "self by to", "repeat": "self by", "hear": "self message",
+            "acts": "self sector", "responsible": "self",
+        },
+    },
+    "centre": {
+        "Centre": {
+            "__init__": "self chart rules winds", "now": "self", "enter": "self requests",
+            "say": "self by flight change tick", "solve": "self by flight changes tick", "hear": "self message",
+            "remind": "self flight", "give": "self flight by to", "repeat": "self flight by",
+            "pass_on": "self flight message", "advance": "self plots", "acts": "self flight sector", "flights": "self",
+            "view": "self flight", "held": "self", "log": "self", "sightings": "self", "alerts": "self",
+            "strips": "self flight", "plan": "self by flight change first second helps", "load": "self sector ahead",
+            "watched": "self ticks",
         },
     },
 }

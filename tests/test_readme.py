@@ -9,13 +9,15 @@ README = pathlib.Path(__file__).resolve().parent.parent / "README.md"
 
 class ReadmeTest(unittest.TestCase):
     def test_example_prints_what_it_says(self):
-        code = re.search(r"```python\n(.*?)```", README.read_text(), re.DOTALL).group(1)
-        told = re.findall(r"^print\(.*\) +# (.*?): ", code, re.MULTILINE)
-        printed = io.StringIO()
-        with contextlib.redirect_stdout(printed):
-            exec(code, {})
-        self.assertEqual(printed.getvalue().split("\n"), [*told, ""])
-        self.assertEqual(len(told), 2)
+        names, lines = {}, []
+        for code in re.findall(r"```python\n(.*?)```", README.read_text(), re.DOTALL):
+            told = re.findall(r"^print\(.*\) +# (.*?)(?:: .*)?$", code, re.MULTILINE)
+            printed = io.StringIO()
+            with contextlib.redirect_stdout(printed):
+                exec(code, names)
+            self.assertEqual(printed.getvalue().split("\n"), [*told, ""])
+            lines += told
+        self.assertEqual(len(lines), 6)
 
 
 if __name__ == "__main__":

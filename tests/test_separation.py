@@ -5,7 +5,7 @@ import unittest
 from skyapart.path import Path
 from skyapart.probe import probe
 from skyapart.separation import first_conflict, separated
-from tests.samples import line_chart, plain_chart, random_chart, random_track, small_rules
+from tests.samples import line_chart, plain_chart, random_chart, random_route, random_track, small_rules
 from tests.test_plane import exact_square
 
 # Apart are 10 + 2 * 2 levels, or a distance of 50 + 2 * 3.
@@ -237,6 +237,29 @@ class ProbeTest(Case):
         self.conflict(RULES, growing, flight(other, 0, [(0, 0), (1, 1), (2, 2), (3, 3), (4, 4)]), 4)
         self.conflict(RULES, growing, flight(other, 0, [(0, 0), (1, 1), (2, 2), (44, 44), (45, 45)]), 4)
         self.conflict(RULES, growing, flight(other, 0, [(0, 0), (1, 1), (2, 2), (45, 45), (46, 46)]), 3)
+
+    def test_boxes_that_go_back(self):
+        path, other = parallel(10)
+        back = flight(path, 0, [(900, 900), (800, 900), (400, 900), (60, 900), (50, 900), (0, 900)])
+        self.conflict(RULES, back, flight(other, 0, [(0, 0)] * 6), 4)
+        self.conflict(RULES, back, flight(other, 0, [(-50, 0)] * 6), 4)
+        self.conflict(RULES, flight(path, 0, [(300, 900), (-300, 900)]), flight(other, 0, [(0, 0)] * 2), 1)
+
+    def test_boxes_in_any_order(self):
+        # No tube has such boxes, but what is left out does not depend on this.
+        chance = random.Random(6)
+        found = []
+        for seed in range(150):
+            chart = random_chart(seed, spread=400)
+            tracks = []
+            for _ in range(2):
+                path = Path(chart, random_route(chance, chart, most=5))
+                bounds = [sorted(chance.randint(-100, path.total() + 50) for _ in range(2)) for _ in range(8)]
+                tracks.append(flight(path, chance.randint(0, 3), [(low, min(high, low + 60)) for low, high in bounds]))
+            found.append(first_conflict(RULES, *tracks))
+            self.conflict(RULES, *tracks, found[-1])
+        self.assertGreater(len([tick for tick in found if tick]), 30)
+        self.assertGreater(found.count(None), 10)
 
     def test_front_beyond_the_total(self):
         # The path ends far from the other one: its front does not get nearer beyond the total.
