@@ -28,7 +28,8 @@ def occupied(offer, sectors):
     for index, box in enumerate(boxes):
         for sector in _sectors(path, box):
             if sector in sectors:
-                found.setdefault(sector, {})[begin + index] = True
+                ticks = found.setdefault(sector, {})
+                ticks[begin + index] = True
     return found
 
 

@@ -24,11 +24,9 @@ def check_requests(chart, requests):
 def request_text(request):
     """Return the text of a request."""
     flight, kind, start, goal, level, wanted, tick, late = request
-    numbers = " ".join(str(number) for number in kind)
-    return (
-        f"FLIGHT {flight} KIND {numbers} FROM {start} TO {goal} "
-        f"AT {level} WANTS {wanted} TICK {tick} LATE {late}"
-    )
+    numbers = " ".join([str(number) for number in kind])
+    way = f"FROM {start} TO {goal} AT {level} WANTS {wanted} TICK {tick} LATE {late}"
+    return f"FLIGHT {flight} KIND {numbers} {way}"
 
 
 def read_request(text):

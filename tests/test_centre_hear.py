@@ -314,7 +314,7 @@ class LogTest(CentreCase):
             lambda: centre.enter([request("F1")]), lambda: centre.say("E", "F1", ("level", 1), 9),
             lambda: centre.solve("W", "F1", [], 6), lambda: centre.give("F1", "E", "W"),
             lambda: centre.pass_on("F1", ("give", 1, "W", "W")), lambda: centre.repeat("F1", "W"),
-            lambda: centre.plan("W", "F1", ("level", 1), 9, 8, []), lambda: centre.strips("F9"),
+            lambda: centre.plan("W", "F1", ("level", 1), 9, 8, []),
         ):
             with self.assertRaises(ValueError):
                 call()
