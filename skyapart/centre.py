@@ -1,4 +1,5 @@
 """The centre: lets flights in, follows them by plots, and changes their courses by voice."""
+from skyapart.calls import copied_call
 from skyapart.clearing import changed_offer, check_room, clearable, reason_against_help, refusal
 from skyapart.courses import window
 from skyapart.entering import admit, check_entering, entries_of
@@ -110,7 +111,11 @@ class Centre:
 
     def log(self):
         """Return all calls that can change the centre and raised no error."""
-        return [_copied_call(call) for call in self._calls]
+        return self.log_from(0)
+
+    def log_from(self, number):
+        """Return the calls of the log from the one with this number on."""
+        return [copied_call(call) for call in self._calls[number:]]
 
     def sightings(self):
         """Return the sightings that are kept."""
@@ -160,8 +165,3 @@ class Centre:
 def _copied_offer(offer):
     wake, runway, (path, tick, boxes) = offer
     return wake, runway, (path, tick, list(boxes))
-
-
-def _copied_call(call):
-    """Return a call with new lists."""
-    return tuple([list(part) if isinstance(part, list) else part for part in call])

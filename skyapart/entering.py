@@ -18,7 +18,16 @@ def check_entering(fleet, requests):
 
 def entries_of(world, request, options):
     """Return, for each option of a request, its offer, or the code of CourseError if it cannot be flown."""
-    return [_entry(world, request, option) for option in options]
+    return [entry_of(world, request, option) for option in options]
+
+
+def entry_of(world, request, option):
+    """Return the offer of an option of a request, or the code of CourseError if it cannot be flown."""
+    flown, tick = option
+    try:
+        return world.offer(request[1], world.path_of(flown), flown, tick, first_box(request))
+    except CourseError as error:
+        return error.code
 
 
 def admit(fleet, request, option, offer):
@@ -30,11 +39,3 @@ def admit(fleet, request, option, offer):
     flight = Flight(request[0], request[1], tick, branch, responsibility)
     flight.promise(window(path, tick, boxes)[1])
     fleet.admit(flight)
-
-
-def _entry(world, request, option):
-    flown, tick = option
-    try:
-        return world.offer(request[1], world.path_of(flown), flown, tick, first_box(request))
-    except CourseError as error:
-        return error.code

@@ -1,5 +1,5 @@
 """Texts of clearances and of their changes."""
-from skyapart.words import Words
+from skyapart.words import SLASH, Words
 
 
 def clearance_text(clearance):
@@ -34,11 +34,11 @@ def clearance_of(words):
 
 
 def change_of(words):
-    """Read the words of a change. The names of a route go on as far as the words do."""
+    """Read the words of a change. The names of a route go on up to a slash or the end of the text."""
     what = words.read_word(("LEVEL", "SPEED", "ROUTE"))
     if what != "ROUTE":
         return what.lower(), words.read_number()
     names = [words.read_name(), words.read_name()]
-    while words.more():
+    while words.more() and not words.comes(SLASH):
         names.append(words.read_name())
     return "route", tuple(names)

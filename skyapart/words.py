@@ -3,6 +3,8 @@ from skyapart.chart import DIGITS, is_name
 from skyapart.errors import TextError
 
 MOST_DIGITS = 9
+# The word between two requests or two changes in one text.
+SLASH = "/"
 
 
 def is_number(word):
@@ -10,6 +12,13 @@ def is_number(word):
     if not 1 <= len(word) <= MOST_DIGITS or (word[0] == "0" and word != "0"):
         return False
     return all(letter in DIGITS for letter in word)
+
+
+def is_signed(word):
+    """Tell whether a word is a number, with `-` in front if it is negative."""
+    if word.startswith("-"):
+        return word != "-0" and is_number(word[1:])
+    return is_number(word)
 
 
 class Words:
@@ -22,6 +31,10 @@ class Words:
     def more(self):
         """Tell whether there are words that have not been read."""
         return self._at < len(self._words)
+
+    def comes(self, word):
+        """Tell whether a word is the next one."""
+        return self.more() and self._words[self._at] == word
 
     def read_word(self, choices):
         """Read a word that must be one of the choices."""
@@ -38,6 +51,12 @@ class Words:
     def read_number(self):
         """Read a number."""
         if not self.more() or not is_number(self._words[self._at]):
+            raise TextError(self._at)
+        return int(self._read())
+
+    def read_signed(self):
+        """Read a signed number."""
+        if not self.more() or not is_signed(self._words[self._at]):
             raise TextError(self._at)
         return int(self._read())
 

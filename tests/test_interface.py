@@ -37,6 +37,15 @@ FUNCTIONS = {
     "phrase": {"clearance_text": "clearance", "read_clearance": "text"},
     "foreign": {"reach": "rules sighting tick", "near_reach": "rules path box sighting tick"},
     "strips": {"strip": "track"},
+    "replay": {"replay": "chart rules winds log"},
+    "approach": {"sequenced": "chart rules winds requests shift"},
+    "charttext": {"chart_text": "chart", "read_chart": "text"},
+    "radio": {"message_text": "message", "read_message": "text"},
+    "calls": {"call_text": "call", "read_call": "text"},
+    "journal": {
+        "text_sum": "text", "line_of": "number call", "journal_text": "log", "read_line": "number line",
+        "read_journal": "text",
+    },
 }
 CLASSES = {
     "path": {
