@@ -46,6 +46,11 @@ FUNCTIONS = {
         "text_sum": "text", "line_of": "number call", "journal_text": "log", "read_line": "number line",
         "read_journal": "text",
     },
+    "wire": {"frame_of": "plot count", "read_stream": "numbers"},
+    "reflected": {"encode": "number", "decode": "code"},
+    "bias": {"narrowed": "rules estimate path box plot", "corrected": "rules estimate plot"},
+    "console": {"respond": "centre text"},
+    "primary": {"take_over": "chart rules winds standby"},
 }
 CLASSES = {
     "path": {
@@ -75,6 +80,24 @@ CLASSES = {
             "view": "self flight", "held": "self", "log": "self", "sightings": "self", "alerts": "self",
             "strips": "self flight", "plan": "self by flight change first second helps", "load": "self sector ahead",
             "watched": "self ticks",
+        },
+    },
+    "standby": {
+        "Feed": {
+            "__init__": "self", "add": "self call", "safe": "self", "messages": "self", "hear": "self answer",
+        },
+        "Standby": {"__init__": "self", "hear": "self message", "calls": "self"},
+    },
+    "desk": {
+        "Desk": {
+            "__init__": "self rules errors estimates", "receive": "self radar numbers",
+            "learn": "self radar path box plot", "estimate": "self radar", "left": "self radar", "lost": "self radar",
+            "held_back": "self radar",
+        },
+    },
+    "primary": {
+        "Primary": {
+            "__init__": "self chart rules winds", "centre": "self", "feed": "self", "respond": "self text",
         },
     },
 }

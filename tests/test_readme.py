@@ -17,7 +17,7 @@ class ReadmeTest(unittest.TestCase):
                 exec(code, names)
             self.assertEqual(printed.getvalue().split("\n"), [*told, ""])
             lines += told
-        self.assertEqual(len(lines), 8)
+        self.assertEqual(len(lines), 14)
 
 
 if __name__ == "__main__":
