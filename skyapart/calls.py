@@ -2,7 +2,7 @@
 from skyapart.phrase import change_of, change_text
 from skyapart.radio import message_of, message_text
 from skyapart.requests import request_of, request_text
-from skyapart.words import SLASH, Words
+from skyapart.words import SLASH, read_whole
 
 CALLS = ("ENTER", "SAY", "SOLVE", "HEAR", "GIVE", "PASS", "ADVANCE")
 HANDOVERS = ("GIVE", "TOOK")
@@ -28,10 +28,7 @@ def call_text(call):
 
 def read_call(text):
     """Return the call whose text it is."""
-    words = Words(text)
-    call = _call_of(words)
-    words.end()
-    return call
+    return read_whole(text, _call_of)
 
 
 def handover_text(message):
@@ -49,7 +46,7 @@ def _with_entries(begin, entries, text_of):
     """Return a text that begins so, with the texts of entries behind it."""
     if not entries:
         return begin
-    listed = f" {SLASH} ".join([text_of(entry) for entry in entries])
+    listed = " / ".join([text_of(entry) for entry in entries])
     return f"{begin} {listed}"
 
 

@@ -1,6 +1,6 @@
 """Texts of charts: a line for each entry."""
 from skyapart.errors import TextError
-from skyapart.words import Words
+from skyapart.words import read_whole
 
 # The first words of the lines, in the order in which the lines stand.
 KINDS = ("FIX", "LEG", "ZONE", "RUNWAY", "HOLD", "HOURS", "CAPACITY")
@@ -47,14 +47,15 @@ def _line(kind, parts):
 
 def _row_of(line):
     """Return the kind of a line and its entry, or None if the line is wrong."""
-    words = Words(line)
     try:
-        kind = words.read_word(KINDS)
-        entry = _entry_of(words, kind)
-        words.end()
+        return read_whole(line, _kind_and_entry_of)
     except TextError:
         return None
-    return kind, entry
+
+
+def _kind_and_entry_of(words):
+    kind = words.read_word(KINDS)
+    return kind, _entry_of(words, kind)
 
 
 def _entry_of(words, kind):

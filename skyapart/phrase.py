@@ -1,5 +1,5 @@
 """Texts of clearances and of their changes."""
-from skyapart.words import SLASH, Words
+from skyapart.words import SLASH, read_whole
 
 
 def clearance_text(clearance):
@@ -10,10 +10,7 @@ def clearance_text(clearance):
 
 def read_clearance(text):
     """Return the clearance whose text it is."""
-    words = Words(text)
-    clearance = clearance_of(words)
-    words.end()
-    return clearance
+    return read_whole(text, clearance_of)
 
 
 def change_text(change):

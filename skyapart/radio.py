@@ -1,6 +1,6 @@
 """Texts of the messages between the centre and its pilots."""
 from skyapart.phrase import clearance_of, clearance_text
-from skyapart.words import Words
+from skyapart.words import read_whole
 
 ABOUT_CLEARANCES = ("SAY", "READ", "CONFIRM")
 ABOUT_NUMBERS = ("ASK", "TAKEN", "NOT")
@@ -17,10 +17,7 @@ def message_text(message):
 
 def read_message(text):
     """Return the message whose text it is."""
-    words = Words(text)
-    message = message_of(words)
-    words.end()
-    return message
+    return read_whole(text, message_of)
 
 
 def message_of(words):

@@ -3,7 +3,7 @@ from skyapart.chart import TOP_LEVEL, is_name
 from skyapart.craft import is_kind
 from skyapart.errors import RequestError, RouteError
 from skyapart.routes import alternatives, with_loops
-from skyapart.words import Words
+from skyapart.words import read_whole
 
 LATEST_ENTRY = 90000
 MOST_LATE = 10000
@@ -31,10 +31,7 @@ def request_text(request):
 
 def read_request(text):
     """Return the request whose text it is."""
-    words = Words(text)
-    request = request_of(words)
-    words.end()
-    return request
+    return read_whole(text, request_of)
 
 
 def request_of(words):

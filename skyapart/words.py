@@ -68,3 +68,11 @@ class Words:
     def _read(self):
         self._at += 1
         return self._words[self._at - 1]
+
+
+def read_whole(text, read):
+    """Return what a function reads from the words of a text. No words may be left."""
+    words = Words(text)
+    found = read(words)
+    words.end()
+    return found
